@@ -92,11 +92,11 @@ func tell(l *slots.Log, kind string, s signed, seq uint64, sum []byte) api.Kind 
 	return l.Commit(s, seq, sum)
 }
 
-// cert: of the model. texts: those that the words allow, where a vote that comes behind may be among the first ones, or not.
+// cert: of the model.
 type cert struct {
 	view  uint64
 	sum   string
-	texts [][]signed
+	texts []signed
 }
 
 // model: the chapter's words over a plain list of what counts in the view.
@@ -182,21 +182,17 @@ func (m *model) takes(x step) api.Kind {
 	}
 	was := m.prepared(x.seq)
 	m.counts = append(m.counts, x)
-	m.certify(x.seq, was)
+	if !was && m.prepared(x.seq) {
+		m.certify(x.seq)
+	}
 	return api.OK
 }
 
-func (m *model) certify(seq uint64, was bool) {
-	if !m.prepared(seq) {
-		return
-	}
+// certify is asked once in a view, behind what made the number prepared.
+func (m *model) certify(seq uint64) {
 	x := m.of(pre, seq)[0]
-	now := append([]signed{x.s}, m.votes(prepare, seq, x.sum)[:2*m.f]...)
-	c := cert{m.view, x.sum, [][]signed{now}}
-	if was {
-		c.texts = append(c.texts, m.certs[seq].texts...)
-	}
-	m.certs[seq] = c
+	texts := append([]signed{x.s}, m.votes(prepare, seq, x.sum)[:2*m.f]...)
+	m.certs[seq] = cert{m.view, x.sum, texts}
 }
 
 func (m *model) enters(view uint64) api.Kind {
@@ -322,8 +318,8 @@ func (p pair) holdsCerts(t *testing.T, what string) {
 	}
 	for i, seq := range slices.Sorted(maps.Keys(p.m.certs)) {
 		want := p.m.certs[seq].texts
-		if !slices.ContainsFunc(want, func(texts []signed) bool { return alike(got[i], texts) }) {
-			t.Errorf("%s: the certificate of %d: %.400s, none of %.400s", what, seq, fmt.Sprint(got[i]), fmt.Sprint(want))
+		if !alike(got[i], want) {
+			t.Errorf("%s: the certificate of %d: %.400s, not %.400s", what, seq, fmt.Sprint(got[i]), fmt.Sprint(want))
 		}
 	}
 }

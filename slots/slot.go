@@ -37,6 +37,10 @@ func newRound(f int) round {
 	return round{prepares: prepares, commits: commits}
 }
 
+func (x *slot) certifiedIn(view uint64) bool {
+	return x.cert.is && x.cert.view == view
+}
+
 func clone(s message.Signed) message.Signed {
 	return message.Signed{From: s.From, B: bytes.Clone(s.B), Tag: bytes.Clone(s.Tag)}
 }
